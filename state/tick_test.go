@@ -705,6 +705,7 @@ func TestStart(t *testing.T) {
 					t.Fatalf("%+v", after.Members[i])
 				}
 			}
+			everywhere(t, s)
 			s.Marks = votes(0, 1)
 			after, r = ticks(t, s)
 			if len(r.Started) != 0 || !slices.Equal(after.Entry, s.Entry) {
@@ -840,6 +841,7 @@ func TestDone(t *testing.T) {
 				s := chamber(marked, passed(about(what), due))
 				// The treasury gets nothing of fines.
 				s.Emergency, s.Params.Burn = what == api.MoveOff, api.MaxRate
+				everywhere(t, s)
 				done := due <= 5 && (len(marked) > 0 || what == api.MoveOn || what == api.MoveOff)
 				want := api.MotionPassed
 				if done {
@@ -1053,6 +1055,7 @@ func TestCap(t *testing.T) {
 		s.Motions = []api.Motion{change(func(p *api.Params) {
 			p.Cap, p.ScoreCap = most, 1<<20
 		})}
+		everywhere(t, settle(s))
 		after, r := ticks(t, settle(s))
 		if !slices.Equal(r.Done, []int{0}) || after.Params.Cap != most || !slices.Equal(after.Purses, want) {
 			t.Fatalf("%d: %+v, %+v", most, r, after)
@@ -1073,6 +1076,7 @@ func TestFloor(t *testing.T) {
 		s.Exit, s.Entry = []int{6, 3}, []int{7, 4}
 		m := change(func(p *api.Params) { p.Floor, p.Rate, p.Absent, p.Wait = floor, 0, 0, 40 })
 		s.Motions = []api.Motion{m}
+		everywhere(t, settle(s))
 		after, r := ticks(t, settle(s))
 		if !slices.Equal(r.Out, out) || after.Members[4].Status != api.StatusPending || !slices.Equal(after.Entry, []int{4}) {
 			t.Fatalf("%d: %+v, %+v", floor, r, after)
@@ -1099,6 +1103,7 @@ func TestTrim(t *testing.T) {
 	s := calls([]api.Member{stood(active(30), 100, 4), stood(leaving(30), 90, 3), stood(pending(30), 80, 4), stood(member(api.StatusOut, 0, 0), 70, 4), stood(member(api.StatusLeft, 0, 0), 48, 1), leaving(30), pending(30)}, 0, 1, 5)
 	s.Params.Rate, s.Params.Churn, s.Exit, s.Entry = 0, 1, []int{5, 1}, []int{6, 2}
 	s.Motions = []api.Motion{change(func(p *api.Params) { p.Streak, p.ScoreCap = 2, 60 })}
+	everywhere(t, settle(s))
 	after, _ := ticks(t, settle(s))
 	for i, want := range map[int][2]int{0: {60, 2}, 1: {60, 2}, 2: {60, 2}, 3: {60, 2}, 4: {48, 1}} {
 		if m := after.Members[i]; m.Score != uint64(want[0]) || m.Streak != want[1] {
@@ -1172,6 +1177,7 @@ func TestEffOfOthers(t *testing.T) {
 	} {
 		s := calls([]api.Member{active(27), active(40), member(api.StatusActive, 20, 10), member(api.StatusActive, 25, 30)}, all(4)...)
 		s.Params.Rate, s.Motions = 0, []api.Motion{change(c.change)}
+		everywhere(t, settle(s))
 		after, r := ticks(t, settle(s))
 		var effs []uint64
 		for _, m := range after.Members {
@@ -1215,6 +1221,7 @@ func TestTurn(t *testing.T) {
 		for i := range n {
 			s.Ring = append(s.Ring, votes(i, 127))
 		}
+		everywhere(t, s)
 		after, _ := ticks(t, s)
 		want := slices.Concat([][]byte{votes(1)}, s.Ring)
 		want = want[:min(len(want), api.MaxRing)]
